@@ -17,7 +17,7 @@ import (
 
 // mark is a text without its marks < and >, and where they stood; a single | is both.
 func mark(text string) (string, int, int) {
-	if i := strings.Index(text, "|"); i >= 0 {
+	if i := strings.Index(text, "|"); i >= 0 && !strings.Contains(text, "«") {
 		return text[:i] + text[i+1:], i, i
 	}
 	i := strings.Index(text, "«")
