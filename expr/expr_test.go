@@ -191,6 +191,22 @@ func TestOtherKindsOfTokens(t *testing.T) {
 			t.Errorf("%v: %d", l, e)
 		}
 	}
+	for _, k := range []int{0, api.TokName, api.TokNum, api.TokWord, api.TokSign, api.TokEnd, 6, -1} {
+		for _, s := range []string{"+", "==", "&&", "[", ".", "("} {
+			l := []api.Token{{K: api.TokName, S: "a"}, {K: k, S: s}, {K: api.TokName, S: "b"}, {K: api.TokSign, S: "]"}}
+			_, at, _ := expr.Parse(l, 0)
+			if goes := k == api.TokWord || k == api.TokSign; (at > 1) != goes {
+				t.Errorf("%v: %d", l, at)
+			}
+		}
+		for _, s := range []string{"true", "read", "-", "!", "[", "@", "new"} {
+			l := []api.Token{{K: k, S: s}, {K: api.TokName, S: "b"}, {K: api.TokSign, S: "("}, {K: api.TokNum}, {K: api.TokSign, S: ")"}, {K: api.TokSign, S: "]"}}
+			x, _, e := expr.Parse(l, 0)
+			if goes := k == api.TokWord || k == api.TokSign; goes && (e != api.OK || x.K == api.KName) || !goes && k != api.TokNum && k != api.TokName && e != api.ErrToken {
+				t.Errorf("%v: %v %d", l, x, e)
+			}
+		}
+	}
 	deep := append(make([]api.Token, 0, 1<<15), api.Token{K: api.TokSign, S: "("})
 	for len(deep) < 1<<14 {
 		deep = append(deep, deep...)

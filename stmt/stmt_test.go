@@ -136,6 +136,22 @@ func TestErrors(t *testing.T) {
 			t.Errorf("block from %d: %d %d", at, p, e)
 		}
 	}
+	for _, k := range []int{0, api.TokName, api.TokNum, api.TokWord, api.TokSign, api.TokEnd, 6, -1} {
+		for _, s := range []string{"print", "return", "do", "{", "let", "if", "while", "for"} {
+			for _, rest := range []string{"f(1);", "}", "a = 1;", "a { }", "a = 1 to 2 { }"} {
+				l := tokens(t, rest)
+				x, _, e := stmt.Parse(append([]api.Token{{K: k, S: s}}, l...), 0)
+				if e == api.OK && k != api.TokWord && k != api.TokSign && x.K != api.KSet {
+					t.Errorf("a token of the kind %d begins %v", k, x)
+				}
+			}
+		}
+		l := tokens(t, "if a { } else { }")
+		l[4].K, l[5].K = k, k
+		if x, at, e := stmt.Parse(l, 0); (k == api.TokWord || k == api.TokSign) != (e == api.OK && at == 7) {
+			t.Errorf("the kind %d: %v %d %d", k, x, at, e)
+		}
+	}
 	deep := tokens(t, strings.Repeat("{", 8000))
 	if _, at, e := stmt.Parse(deep, 0); at != 8000 || e != api.ErrToken {
 		t.Error("deep blocks", at, e)

@@ -28,10 +28,11 @@ func record(l ...T) T {
 	return r
 }
 
-// module has at 0 a record of four cells, at 1 a global, at 2 one that has 0, at 3 one that has itself, 4 and 5 each other, at 6 an empty one, at 7 one with what is no type, at 8 one of 65 cells, at 9 one of 64, at 10 one whose part is no KPart, at 11 one whose KPart has two parts.
+// module has at 0 a record of four cells, at 1 a global, at 2 one that has 0, at 3 one that has itself, 4 and 5 each other, at 6 an empty one, at 7 one with what is no type, at 8 one of 65 cells, at 9 one of 64, at 10 one whose part is no KPart, at 11 one whose KPart has two parts, at 12 what is no record but has a KPart, at 13 a record of a KPart and a KVar.
 var module = T{K: api.KModule, L: []T{
 	record(integer, arr(3, truth)), {K: api.KVar, L: []T{integer}}, record(rec(0), arr(2, rec(0)), truth), record(integer, rec(3)), record(rec(5)), record(arr(1, rec(4))), record(), record(T{K: api.KNum}),
 	record(arr(16, arr(4, integer)), integer), record(arr(16, arr(3, integer)), arr(16, truth)), {K: api.KRecord, L: []T{integer}}, {K: api.KRecord, L: []T{{K: api.KPart, L: []T{integer, integer}}}},
+	{K: api.KFn, L: []T{part(integer)}}, {K: api.KRecord, L: []T{part(truth), {K: api.KVar, L: []T{integer}}}},
 }}
 
 func TestCells(t *testing.T) {
@@ -40,7 +41,7 @@ func TestCells(t *testing.T) {
 		cells int
 	}{
 		{integer, 1}, {truth, 1}, {T{K: api.KInt, N: 7, S: "x", From: 3, To: 9}, 1}, {arr(1, integer), 1}, {arr(16, truth), 16}, {arr(2, arr(3, integer)), 6}, {rec(0), 4}, {arr(16, rec(0)), 64}, {arr(16, arr(2, rec(0))), 0}, {arr(2, arr(16, rec(0))), 0}, {rec(2), 13}, {arr(4, rec(2)), 52}, {arr(5, rec(2)), 0}, {arr(4, arr(16, integer)), 64}, {arr(5, arr(13, integer)), 0},
-		{rec(1), 0}, {rec(3), 0}, {rec(4), 0}, {rec(5), 0}, {rec(6), 0}, {rec(7), 0}, {rec(8), 0}, {rec(9), 64}, {rec(10), 0}, {rec(11), 0}, {rec(12), 0}, {rec(-1), 0}, {rec(math.MaxInt64), 0}, {rec(math.MinInt64), 0}, {rec(1 << 32), 0},
+		{rec(1), 0}, {rec(3), 0}, {rec(4), 0}, {rec(5), 0}, {rec(6), 0}, {rec(7), 0}, {rec(8), 0}, {rec(9), 64}, {rec(10), 0}, {rec(11), 0}, {rec(12), 0}, {rec(13), 0}, {rec(14), 0}, {rec(-1), 0}, {rec(math.MaxInt64), 0}, {rec(math.MinInt64), 0}, {rec(1 << 32), 0},
 		{arr(0, integer), 0}, {arr(17, integer), 0}, {arr(-1, integer), 0}, {arr(math.MaxInt64, integer), 0}, {arr(1<<62, integer), 0}, {arr(2, rec(3)), 0},
 		{T{}, 0}, {T{K: api.KArr, N: 2}, 0}, {T{K: api.KArr, N: 2, L: []T{integer, integer}}, 0}, {T{K: api.KInt, L: []T{integer}}, 0}, {T{K: api.KBool, L: []T{integer}}, 0}, {T{K: api.KRec, L: []T{integer}}, 0}, {T{K: api.KNum}, 0}, {T{K: -1}, 0}, {part(integer), 0}, {arr(2, T{K: api.KNum}), 0},
 	} {
@@ -78,7 +79,7 @@ func TestSums(t *testing.T) {
 		}
 		for _, y := range []T{integer, rec(0), arr(9, truth)} {
 			m := T{K: api.KModule, L: append(append([]T{}, module.L...), record(x, y))}
-			if typ.Cells(m, rec(12)) != typ.Cells(m, x)+typ.Cells(m, y) {
+			if typ.Cells(m, rec(14)) != typ.Cells(m, x)+typ.Cells(m, y) {
 				t.Errorf("a record of %v and %v", x, y)
 			}
 		}
@@ -100,12 +101,12 @@ func TestPlain(t *testing.T) {
 
 func TestField(t *testing.T) {
 	m := T{K: api.KModule, L: append(append([]T{}, module.L...), record(T{K: api.KBool, S: "s", From: 2, To: 6}))}
-	for n, want := range map[int64]T{0: integer, 1: arr(3, truth), 128: rec(0), 130: truth, 64*3 + 1: rec(3), 64 * 7: {K: api.KNum}, 64 * 12: {K: api.KBool, S: "s", From: 2, To: 6}} {
+	for n, want := range map[int64]T{0: integer, 1: arr(3, truth), 128: rec(0), 130: truth, 64*3 + 1: rec(3), 64 * 7: {K: api.KNum}, 64 * 13: truth, 64 * 14: {K: api.KBool, S: "s", From: 2, To: 6}} {
 		if x, ok := typ.Field(m, n); !ok || !reflect.DeepEqual(x, want) {
 			t.Errorf("field %d: %v", n, x)
 		}
 	}
-	for _, n := range []int64{-1, 2, 63, 64, 65, 131, 64 * 6, 64 * 10, 64 * 11, 64 * 13, math.MaxInt64, math.MinInt64, -64} {
+	for _, n := range []int64{-1, 2, 63, 64, 65, 131, 64 * 6, 64 * 10, 64 * 11, 64 * 12, 64*13 + 1, 64 * 15, math.MaxInt64, math.MinInt64, -64} {
 		if x, ok := typ.Field(m, n); ok || !term.Same(x, T{}) {
 			t.Errorf("there is a field %d", n)
 		}
