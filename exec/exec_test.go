@@ -77,6 +77,7 @@ var runs = []struct {
 	{"while g < 2 { g = g + 1; } return g;", nil, api.RunDone, 2, nil, 23},
 	{"for i = 1 to 3 { print i; }", nil, api.RunDone, 0, []int64{1, 2}, 13},
 	{"for i = 1 to 3 { i = 9; print i; }", nil, api.RunDone, 0, []int64{9, 9}, 17},
+	{"let q = 7; for i = 1 to 3 { print i; } print q; for i = 0 to 2 { let z = i; for j = 0 to 1 { print j; } print z; print q; } return q;", nil, api.RunDone, 7, []int64{1, 2, 7, 0, 0, 7, 0, 1, 7}, 55},
 	{"for i = 3 to 1 { print i; }", nil, api.RunDone, 0, nil, 5},
 	{"for i = read to read { let j = i; return j; }", []int64{4, 9}, api.RunDone, 4, nil, 10},
 	{"for i = 9223372036854775806 to 9223372036854775807 { print i; }", nil, api.RunDone, 0, []int64{math.MaxInt64 - 1}, 9},
@@ -203,6 +204,21 @@ func TestEval(t *testing.T) {
 			t.Errorf("%d: %v %v %d", i, v, out, e)
 		}
 	}
+	room := state(m)
+	room.Trace = append(make([]int64, 0, 9), 99)
+	_, out, _ := exec.Eval(m, types, room, call(6))
+	if room.Trace[:2][1] != 0 {
+		t.Error("the room behind the end was written")
+	}
+	out.Locals[1].L[0].N, out.Locals[0].N, out.Input[0], out.Globals[1].L[0].N, out.Trace[0] = 77, 77, 77, 77, 77
+	if again := state(m); !reflect.DeepEqual(room.Locals, again.Locals) || !reflect.DeepEqual(room.Input, again.Input) || !reflect.DeepEqual(room.Globals, again.Globals) || room.Trace[0] != 99 {
+		t.Error("memory is shared")
+	}
+	v, out, _ := exec.Eval(m, types, state(m), T{K: api.KGlobal, N: 1})
+	v.L[0].N = 77
+	if out.Globals[1].L[0].N != 6 {
+		t.Error("two parts of an answer share memory")
+	}
 	s := state(m)
 	s.Fuel = 0
 	if v, out, e := exec.Eval(m, types, s, num(4)); e != api.OK || v.N != 0 || out.Kind != api.RunDry || out.Fuel != 0 || len(out.Locals) != 3 {
@@ -248,6 +264,13 @@ func TestErrors(t *testing.T) {
 		}
 		if _, _, e := exec.Call(m, s, 6, nil); e != want {
 			t.Errorf("Call %d: %d", i, e)
+		}
+	}
+	for i, change := range []func(s *api.State){func(s *api.State) { s.At = 0 }, func(s *api.State) { s.Fuel = api.MaxFuel }, func(s *api.State) { s.Fuel = 0 }, func(s *api.State) { s.Trace = nil }, func(s *api.State) { s.Input, s.At = nil, 0 }} {
+		s := state(m)
+		change(&s)
+		if _, _, e := exec.Call(m, s, 6, nil); e != api.OK {
+			t.Errorf("a state that fits, %d: %d", i, e)
 		}
 	}
 	s := state(m)

@@ -37,6 +37,12 @@ func TestOf(t *testing.T) {
 	if len(of(t, "")) != 0 || len(of(t, "fn f(): int { }")) != 0 {
 		t.Error("no faces")
 	}
+	three := []api.Term{{K: api.KParams}, integer, {K: api.KBlock}}
+	for _, d := range []api.Term{{K: api.KVar, N: 1, L: three}, {K: api.KFn, N: 0, L: three}, {K: api.KFn, N: 2, L: three}} {
+		if m := (api.Term{K: api.KModule, L: []api.Term{d}}); len(face.Of(m, m)) != 0 {
+			t.Errorf("%v is a face", d)
+		}
+	}
 	for k := -1; k <= api.KModule+1; k++ {
 		x := api.Term{K: k, N: 1, L: []api.Term{{K: k, N: 1}, {K: api.KFn, N: 1, L: []api.Term{{L: []api.Term{{}}}}}}}
 		face.Of(x, x)

@@ -120,7 +120,7 @@ func TestOnlyWhatIsShown(t *testing.T) {
 func TestRename(t *testing.T) {
 	names := []api.Naming{{Old: "f", New: "longer"}, {Old: "g", New: "f"}, {Old: "f", New: "never"}, {Old: "if", New: "x"}, {Old: "h", New: ""}}
 	for _, c := range []struct{ text, want string }{
-		{"", ""}, {"print @f();", "print @longer();"}, {"f @ f f @// @f\n g @g(@f)", "f @ longer f @// @f\n f @f(@longer)"}, {"@if @h @k @@f @ 1 f", "@if @ @k @@longer @ 1 f"}, {"f g h", "f g h"},
+		{"", ""}, {"print @f();", "print @longer();"}, {"f @ f f @// @f\n g @g(@f)", "f @ longer f @// @f\n f @f(@longer)"}, {"@if @h @k @@f @ 1 f", "@if @ @k @@longer @ 1 f"}, {"f g h", "f g h"}, {"print (f + -f); x = f; { f", "print (f + -f); x = f; { f"},
 	} {
 		if s, at, e := link.Rename(c.text, names); s != c.want || at != 0 || e != api.OK {
 			t.Errorf("%q: %q %d %d", c.text, s, at, e)

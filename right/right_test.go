@@ -86,7 +86,7 @@ func TestErrors(t *testing.T) {
 func TestFine(t *testing.T) {
 	for _, text := range []string{
 		"fn f(): int { }", "fn f(): int { return f(); print 1; return 2; }", "rec A { b: B; } rec B { a: int; } fn f(a: A): B { return a.b; }", "var a: [16][4]int;", "fn f(a: [2][3]int): [3]int { a[0][1] = 1; return a[1]; }", "pub fn f(a: [2]bool): [2]int { return [1, 2]; }",
-		"fn f(a: int): int { let a = a < 1; if a { let a = [1]; print a[0]; } print a; return 1; }", "fn f(): int { for i = 1 to 2 { i = 5; } return 1 / 0; }", "fn f(a: [2]int): int { a = [3, 4]; return a[9]; }", "const c = true; fn f(): bool { return c && read == 1; }",
+		"fn f(a: int): int { let a = a < 1; if a { let a = [1]; print a[0]; } print a; return 1; }", "fn f(): int { for i = 1 to 2 { i = 5; } return 1 / 0; }", "fn f(a: [2]int): int { a = [3, 4]; return a[9]; }", "const c = true; fn f(): bool { return c && read == 1; }", "const c = false; fn f(): bool { return c; }",
 	} {
 		if _, s, at, e := right.Read(text); e != api.OK || !right.Right(s) {
 			t.Errorf("%q: %d %d", text, at, e)
@@ -115,6 +115,10 @@ func TestHandMade(t *testing.T) {
 		if at != c.at || e != api.ErrPlace || !reflect.DeepEqual(m, T{}) || right.Right(c.m) {
 			t.Errorf("%v: %d %d", c.m, at, e)
 		}
+	}
+	two := T{K: api.KModule, L: []T{{K: api.KFn, L: []T{{K: api.KParams, L: []T{{K: api.KPart, L: []T{{K: api.KInt}}}}}, {K: api.KInt}, block()}}, fn(block(T{K: api.KReturn, L: []T{{K: api.KLocal, From: 8}}}))}}
+	if _, at, e := right.Module(two); at != 8 || e != api.ErrName {
+		t.Error("another function's parameter", at, e)
 	}
 	for _, l := range [][]T{{{K: api.KVar, L: []T{{K: api.KNum, From: 6}}}}, {{K: api.KVar, L: []T{{K: api.KRec, N: 7, From: 6}}}}, {{K: api.KFn, L: []T{{K: api.KParams}, {K: api.KRec, From: 6}, block()}}}} {
 		if _, at, e := right.Module(T{K: api.KModule, L: l}); at != 6 || e != api.ErrSize {
@@ -154,6 +158,12 @@ func TestLocals(t *testing.T) {
 		l, ok := right.Locals(m, c.path)
 		if !ok || len(l) != len(c.want) || len(l) > 0 && !reflect.DeepEqual(l, c.want) {
 			t.Errorf("%v: %v %v", c.path, l, ok)
+		}
+	}
+	_, fields, _, _ := right.Read("rec R { a: int; b: int; c: bool; } fn f(x: R): int { }")
+	for _, p := range [][]int{{0}, {0, 2}, {0, 2, 0}} {
+		if l, ok := right.Locals(fields, p); !ok || len(l) != 0 {
+			t.Errorf("a record's part %v: %v", p, l)
 		}
 	}
 	for _, p := range [][]int{{7}, {-1}, {5, 3}, {5, 2, 9}, {5, 2, 0, 0, 0, 0}, {0, 0, 0, 0}} {

@@ -42,7 +42,7 @@ func TestIn(t *testing.T) {
 		i, n int
 	}{
 		{loop(num(1), num(2)), 0, 0}, {loop(num(1), num(2)), 1, 0}, {loop(num(1), num(2)), 2, 1}, {loop(num(1), num(2)), 3, 0}, {fn(3, block()), 2, 3}, {fn(3, block()), 1, 0}, {fn(3, block()), 0, 0}, {fn(0, block()), 2, 0},
-		{of(api.KIf, num(1), block(), block()), 2, 0}, {of(api.KWhile, num(1), block()), 1, 0}, {let(num(1)), 0, 0}, {b, -1, 0}, {b, math.MaxInt, 0}, {b, math.MinInt, 0}, {of(api.KFn, params(2)), 2, 0}, {of(api.KFor), 2, 0}, {T{}, 0, 0},
+		{of(api.KIf, num(1), block(), block()), 2, 0}, {of(api.KIf, of(api.KList, num(1), num(2)), block(), block()), 2, 0}, {of(api.KList, params(3), num(1), num(2)), 2, 0}, {of(api.KWhile, num(1), block()), 1, 0}, {let(num(1)), 0, 0}, {b, -1, 0}, {b, math.MaxInt, 0}, {b, math.MinInt, 0}, {of(api.KFn, params(2)), 2, 0}, {of(api.KFor), 2, 0}, {T{}, 0, 0},
 	} {
 		if n := shift.In(c.t, c.i); n != c.n {
 			t.Errorf("In(%v, %d): %d", c.t, c.i, n)
@@ -62,7 +62,7 @@ func TestShift(t *testing.T) {
 		{loop(local(0), local(1), printed(0), printed(1), printed(2)), 10, 0, loop(local(10), local(11), printed(0), printed(11), printed(12)), true},
 		{fn(2, block(printed(1), printed(2))), 1, 0, fn(2, block(printed(1), printed(3))), true},
 		{block(block(let(num(1)), printed(1)), printed(0)), 1, 0, block(block(let(num(1)), printed(2)), printed(1)), true},
-		{local(-1), 5, 0, local(-1), true}, {local(math.MinInt64), -5, 0, local(math.MinInt64), true}, {local(math.MaxInt64), 1, 0, local(math.MinInt64), true}, {local(math.MaxInt64), -1, 0, local(math.MaxInt64 - 1), true},
+		{local(-1), 5, 0, local(-1), true}, {block(let(num(1)), let(num(1)), printed(math.MinInt64), printed(-1)), 5, 0, block(let(num(1)), let(num(1)), printed(math.MinInt64), printed(-1)), true}, {of(api.KIf, of(api.KList, local(0), local(1)), block(printed(1)), block(printed(0))), 3, 0, of(api.KIf, of(api.KList, local(3), local(4)), block(printed(4)), block(printed(3))), true}, {local(math.MinInt64), -5, 0, local(math.MinInt64), true}, {local(math.MaxInt64), 1, 0, local(math.MinInt64), true}, {local(math.MaxInt64), -1, 0, local(math.MaxInt64 - 1), true},
 		{T{K: api.KLocal, N: 1, S: "s", From: 4, To: 5, L: []T{local(1)}}, 1, 0, T{K: api.KLocal, N: 2, S: "s", From: 4, To: 5, L: []T{local(1)}}, true},
 		{local(1), api.MaxNodes, 0, local(1 + api.MaxNodes), true}, {local(1), api.MaxNodes + 1, 0, T{}, false}, {num(1), api.MaxNodes + 1, 0, T{}, false}, {num(1), -api.MaxNodes, api.MaxNodes, num(1), true}, {num(1), -api.MaxNodes - 1, 0, T{}, false}, {num(1), 1, -1, T{}, false}, {num(1), 1, api.MaxNodes + 1, T{}, false}, {num(1), 1, math.MinInt, T{}, false}, {num(1), math.MinInt, 0, T{}, false}, {num(1), math.MaxInt, math.MaxInt, T{}, false},
 	} {
@@ -101,7 +101,7 @@ func TestMentions(t *testing.T) {
 		at   int
 		want bool
 	}{
-		{example, 0, true}, {example, 1, false}, {local(5), 5, true}, {local(5), 4, false}, {local(-1), -1, false}, {num(1), 0, false}, {block(let(num(1)), printed(0)), 0, false}, {block(let(num(1)), printed(3)), 2, true}, {loop(num(1), num(2), printed(0)), 0, false}, {loop(num(1), num(2), printed(1)), 0, true}, {loop(local(0), num(2)), 0, true}, {fn(2, block(printed(1))), 1, false}, {fn(2, block(printed(1))), 0, false}, {fn(2, block(printed(2))), 0, true},
+		{example, 0, true}, {example, 1, false}, {local(5), 5, true}, {local(5), 4, false}, {local(-1), -1, false}, {block(let(num(1)), printed(math.MinInt64)), math.MaxInt, false}, {block(let(num(1)), let(num(1)), printed(math.MinInt64)), math.MaxInt - 1, false}, {num(1), 0, false}, {block(let(num(1)), printed(0)), 0, false}, {block(let(num(1)), printed(3)), 2, true}, {loop(num(1), num(2), printed(0)), 0, false}, {loop(num(1), num(2), printed(1)), 0, true}, {loop(local(0), num(2)), 0, true}, {fn(2, block(printed(1))), 1, false}, {fn(2, block(printed(1))), 0, false}, {fn(2, block(printed(2))), 0, true},
 		{T{K: api.KLocal, N: 1, L: []T{local(0)}}, 0, false}, {set(local(0), num(1)), 0, true}, {local(0), math.MinInt, false}, {local(math.MaxInt64), math.MaxInt, true},
 	} {
 		if shift.Mentions(c.t, c.at) != c.want {

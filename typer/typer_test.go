@@ -117,6 +117,19 @@ func TestErrors(t *testing.T) {
 			t.Errorf("%v: %d %d, not %d %d", c.t, place, e, c.at, c.e)
 		}
 	}
+	odd := of(api.KModule, 0, of(api.KVar, 0, num(1)), of(api.KRecord, 0, part("", integer), part("", integer), part("", integer)), of(api.KFn, 0, part("", integer)), of(api.KRecord, 0, of(api.KVar, 0, integer)), of(api.KDefine, 0, integer), of(api.KFn, 0, of(api.KParams, 0, of(api.KPart, 0)), integer, of(api.KBlock, 0)), of(api.KDefine, 0, num(1), num(1)), of(api.KVar, 0, integer, integer))
+	weird := []T{{K: api.KInt, L: []T{integer}}, {K: api.KBool, L: []T{truth}}, {K: api.KRec, N: 1, L: []T{integer}}, {K: api.KArr, N: 2}, {K: api.KArr, N: 2, L: []T{integer, integer}}}
+	for i, c := range []struct {
+		t T
+		e api.Errno
+	}{
+		{of(api.KConst, 0), api.ErrName}, {of(api.KConst, 4), api.ErrName}, {of(api.KConst, 6), api.ErrName}, {of(api.KGlobal, 7), api.ErrName}, {of(api.KCall, 1), api.ErrName}, {of(api.KMake, 2, num(1)), api.ErrName}, {of(api.KMake, 3, num(1)), api.ErrName}, {of(api.KCall, 5, num(1)), api.ErrType}, {of(api.KMake, 1, num(1), num(1), num(1)), api.OK},
+		{bin(api.OpAdd, local(4), num(1)), api.ErrType}, {bin(api.OpAdd, tf(1), num(1)), api.ErrType}, {bin(api.OpAdd, num(1), local(4)), api.ErrType}, {un(api.OpNeg, local(4)), api.ErrType}, {un(api.OpNot, local(3)), api.ErrType}, {bin(api.OpOr, local(3), tf(1)), api.ErrType}, {field(64, local(2)), api.ErrType}, {index(local(2), num(0)), api.ErrType}, {index(local(1), num(0)), api.ErrType}, {index(local(0), num(0)), api.ErrType}, {local(0), api.OK},
+	} {
+		if _, _, _, e := typer.Of(odd, weird, c.t); e != c.e {
+			t.Errorf("odd %d: %d, not %d", i, e, c.e)
+		}
+	}
 	if _, _, _, e := typer.Of(module(), nil, local(0)); e != api.ErrName {
 		t.Error("no locals")
 	}
