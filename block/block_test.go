@@ -80,7 +80,7 @@ var cases = []struct {
 	{api.DeadReturn, "{ print 1; return 2; print 3; let z = 4; print z; }", "{ print 1; return 2; }", 1, true}, {api.DeadReturn, "{ return 2; return 3; }", "{ return 2; }", 0, true}, {api.DeadReturn, "{ return 2; }", "{ return 2; }", 0, true}, {api.DeadReturn, "{ let z = a; return z; do writes(); }", "{ let z = a; return z; }", 1, true},
 	{api.DeadReturn, "{ print 1; return 2; print 3; }", "{ print 1; }", 0, false}, {api.DeadReturn, "{ print 1; return 2; print 3; }", "{ print 1; return 2; print 3; }", 1, false}, {api.DeadReturn, "{ print 1; return 2; print 3; }", "{ print 1; return 2; }", 2, false}, {api.DeadReturn, "{ { return 2; } print 3; }", "{ { return 2; } }", 0, false}, {api.DeadReturn, "{ return 1; print 3; }", "{ return 2; }", 0, false}, {api.DeadReturn, "{ return 1; }", "{ }", 0, false},
 	{api.Swap, "{ a = 1; i = 2; print a; }", "{ i = 2; a = 1; print a; }", 0, true}, {api.Swap, "{ print 1; a = a + g; i = i * i; }", "{ print 1; i = i * i; a = a + g; }", 1, true}, {api.Swap, "{ let z = 1; z = a; i = 2; print z; }", "{ let z = 1; i = 2; z = a; print z; }", 1, true}, {api.Swap, "{ e = [a, 1]; r = new R(i, b); }", "{ r = new R(i, b); e = [a, 1]; }", 0, true},
-	{api.Swap, "{ a = 1; a = 2; }", "{ a = 2; a = 1; }", 0, false}, {api.Swap, "{ a = i; i = 2; }", "{ i = 2; a = i; }", 0, false}, {api.Swap, "{ a = 1; i = a; }", "{ i = a; a = 1; }", 0, false}, {api.Swap, "{ a = 1; i = none(); }", "{ i = none(); a = 1; }", 0, false}, {api.Swap, "{ a = read; i = 1; }", "{ i = 1; a = read; }", 0, false}, {api.Swap, "{ e[0] = 1; i = 2; }", "{ i = 2; e[0] = 1; }", 0, false}, {api.Swap, "{ a = 1; e[1] = 2; }", "{ e[1] = 2; a = 1; }", 0, false}, {api.Swap, "{ g = 1; i = 2; }", "{ i = 2; g = 1; }", 0, false}, {api.Swap, "{ a = 1; g = 2; }", "{ g = 2; a = 1; }", 0, false}, {api.Swap, "{ a = 1; i = 2; }", "{ a = 1; i = 2; }", 0, false}, {api.Swap, "{ a = 1; i = 2; }", "{ i = 2; a = 1; }", 1, false}, {api.Swap, "{ a = 1; print 2; }", "{ print 2; a = 1; }", 0, false}, {api.Swap, "{ a = 1; i = 2; b = true; }", "{ a = 1; b = true; i = 2; }", 0, false},
+	{api.Swap, "{ a = 1; a = 2; }", "{ a = 2; a = 1; }", 0, false}, {api.Swap, "{ print 2; a = 1; }", "{ a = 1; print 2; }", 0, false}, {api.Swap, "{ while b { } a = 1; }", "{ a = 1; while b { } }", 0, false}, {api.Swap, "{ a = i; i = 2; }", "{ i = 2; a = i; }", 0, false}, {api.Swap, "{ a = 1; i = a; }", "{ i = a; a = 1; }", 0, false}, {api.Swap, "{ a = 1; i = none(); }", "{ i = none(); a = 1; }", 0, false}, {api.Swap, "{ a = read; i = 1; }", "{ i = 1; a = read; }", 0, false}, {api.Swap, "{ e[0] = 1; i = 2; }", "{ i = 2; e[0] = 1; }", 0, false}, {api.Swap, "{ a = 1; e[1] = 2; }", "{ e[1] = 2; a = 1; }", 0, false}, {api.Swap, "{ g = 1; i = 2; }", "{ i = 2; g = 1; }", 0, false}, {api.Swap, "{ a = 1; g = 2; }", "{ g = 2; a = 1; }", 0, false}, {api.Swap, "{ a = 1; i = 2; }", "{ a = 1; i = 2; }", 0, false}, {api.Swap, "{ a = 1; i = 2; }", "{ i = 2; a = 1; }", 1, false}, {api.Swap, "{ a = 1; print 2; }", "{ print 2; a = 1; }", 0, false}, {api.Swap, "{ a = 1; i = 2; b = true; }", "{ a = 1; b = true; i = 2; }", 0, false},
 }
 
 func TestHolds(t *testing.T) {
@@ -193,6 +193,15 @@ func TestFlat(t *testing.T) {
 	}{{T{}, 0}, {T{K: api.KBlock}, 0}, {T{K: api.KBlock, L: []T{let}}, 0}, {T{K: api.KList, L: []T{{K: api.KBlock}}}, 0}, {T{K: api.KBlock, L: []T{{K: api.KBlock}}}, 1}, {T{K: api.KBlock, L: []T{{K: api.KBlock}}}, -1}, {T{K: api.KBlock, L: []T{{K: api.KBlock}}}, math.MinInt}} {
 		if x, ok := block.Flat(c.t, c.i); ok || !reflect.DeepEqual(x, T{}) {
 			t.Errorf("%v is flat", c.t)
+		}
+	}
+	num := T{K: api.KNum}
+	for _, x := range []T{{K: api.KList, L: []T{loc(1), num}}, {K: api.KSet, L: []T{{K: api.KLocal, N: 1, L: []T{num}}, num}}, {K: api.KSet, L: []T{loc(1), num, num}}, {K: api.KSet, L: []T{loc(1)}}, {K: api.KSet}} {
+		other := T{K: api.KSet, L: []T{loc(2), num}}
+		for _, l := range [][]T{{x, other}, {other, x}} {
+			if block.Holds(api.Swap, []int{0}, T{K: api.KBlock, L: l}, T{K: api.KBlock, L: []T{l[1], l[0]}}) {
+				t.Errorf("%v changes its place", x)
+			}
 		}
 	}
 	locals := func(n int64) T { return T{K: api.KSet, L: []T{loc(n), {K: api.KNum}}} }

@@ -119,7 +119,7 @@ func TestHandMade(t *testing.T) {
 	of := func(k int, l ...T) T { return T{K: k, L: l} }
 	fn := func(b T) T { return of(api.KFn, of(api.KParams, T{}), of(api.KInt), b) }
 	good := of(api.KBlock, of(api.KReturn, of(api.KList, T{K: api.KLocal, N: 0}, T{K: api.KLocal, N: 1}, T{K: api.KLocal, N: -1})))
-	m := of(api.KModule, fn(good), fn(of(api.KBlock)), fn(of(api.KBlock, of(api.KReturn))), fn(of(api.KBlock, of(api.KPrint, num(1)))), fn(of(api.KReturn, num(1))), of(api.KFn, of(api.KParams, T{}), of(api.KInt)), of(api.KVar, of(api.KParams, T{}), T{}, good), fn(of(api.KBlock, of(api.KReturn, num(1), num(2)))), fn(of(api.KBlock, of(api.KReturn, num(1)), num(1))))
+	m := of(api.KModule, fn(good), fn(of(api.KBlock)), fn(of(api.KBlock, of(api.KReturn))), fn(of(api.KBlock, of(api.KPrint, num(1)))), fn(of(api.KReturn, num(1))), of(api.KFn, of(api.KParams, T{}), of(api.KInt)), of(api.KVar, of(api.KParams, T{}), T{}, good), fn(of(api.KBlock, of(api.KReturn, num(1), num(2)))), fn(of(api.KBlock, of(api.KReturn, num(1)), num(1))), fn(of(api.KList, of(api.KReturn, num(1)))), of(api.KFn, of(api.KParams, T{}), of(api.KInt), good, good))
 	for i := int64(-2); i < 12; i++ {
 		x, ok := calls.Unfold(m, T{K: api.KCall, N: i, L: []T{num(9)}})
 		if ok != (i == 0) || ok && !term.Same(x, of(api.KList, num(9), T{K: api.KLocal, N: 1}, T{K: api.KLocal, N: -1})) {

@@ -82,7 +82,7 @@ func TestPerm(t *testing.T) {
 			t.Errorf("%v: %v", nums, p)
 		}
 	}
-	for _, nums := range [][]int{nil, {0}, {0, 1, 2, 3, 4}, {0, 1, 2, 3, 4, 4}, {0, 1, 2, 3, 4, 6}, {-1, 0, 1, 2, 3, 4}, {0, 1, 2, 3, 4, 5, 6}, {0, 1, 2, 3, 4, math.MaxInt}, {0, 1, 2, 3, 4, math.MinInt}} {
+	for _, nums := range [][]int{nil, {0}, {0, 1, 2, 3, 4}, {0, 1, 2, 3, 4, 4}, {0, 0, 2, 3, 4, 5}, {0, 1, 2, 3, 0, 5}, {5, 5, 5, 5, 5, 5}, {0, 1, 2, 3, 4, 6}, {-1, 0, 1, 2, 3, 4}, {0, 1, 2, 3, 4, 5, 6}, {0, 1, 2, 3, 4, math.MaxInt}, {0, 1, 2, 3, 4, math.MinInt}} {
 		if x, ok := decls.Perm(m, nums); ok || !reflect.DeepEqual(x, T{}) || decls.Holds(api.PermDecls, nums, m, m) {
 			t.Errorf("%v: %v", nums, x)
 		}
@@ -118,6 +118,12 @@ func TestDrop(t *testing.T) {
 		if x, ok := decls.Drop(m, i); ok || !reflect.DeepEqual(x, T{}) || decls.Holds(api.DropDecl, []int{i}, m, m) {
 			t.Errorf("%d: %v", i, x)
 		}
+	}
+	if _, ok := decls.Drop(T{K: api.KModule, L: []T{{K: api.KVar, N: 1}, {K: api.KFn, N: 2}}}, 0); !ok {
+		t.Error("what is no function may go, whatever its number")
+	}
+	if _, ok := decls.Drop(T{K: api.KModule, L: []T{{K: api.KVar, N: 1}, {K: api.KFn, N: 2}}}, 1); !ok {
+		t.Error("a function of another number")
 	}
 	if _, ok := decls.Drop(T{K: api.KBlock, L: []T{{}}}, 0); ok {
 		t.Error("what is no module")

@@ -116,6 +116,22 @@ func TestShapes(t *testing.T) {
 		}
 	}
 	no := T{K: api.KBlock}
+	for _, c := range []T{{K: api.KBlock}, {K: api.KInt}, {K: api.KLet}, {}} {
+		not := T{K: api.KUn, N: api.OpNot, L: []T{c}}
+		if flow.Holds(api.IfInvert, T{K: api.KIf, L: []T{c, no, no}}, T{K: api.KIf, L: []T{not, no, no}}) {
+			t.Errorf("%v is no expression", c)
+		}
+		while := T{K: api.KWhile, L: []T{c, no}}
+		if flow.Holds(api.WhileUnroll, while, T{K: api.KIf, L: []T{c, {K: api.KBlock, L: []T{no, while}}, no}}) {
+			t.Errorf("%v is no expression", c)
+		}
+	}
+	for _, c := range []T{{K: api.KNum}, {K: api.KName, S: "a"}} {
+		not := T{K: api.KUn, N: api.OpNot, L: []T{c}}
+		if !flow.Holds(api.IfInvert, T{K: api.KIf, L: []T{c, no, no}}, T{K: api.KIf, L: []T{not, no, no}}) {
+			t.Errorf("%v is an expression", c)
+		}
+	}
 	num := T{K: api.KNum, N: 1}
 	for _, x := range []T{{K: api.KIf, L: []T{{K: api.KTruth, N: 1}, num, no}}, {K: api.KIf, L: []T{{K: api.KTruth, N: 1}, no, num}}, {K: api.KIf}, {K: api.KWhile}, {K: api.KWhile, L: []T{{K: api.KTruth}, num}}, {K: api.KFor}, {K: api.KIf, L: []T{{K: api.KTruth, N: 1, S: "s"}, no, no}}} {
 		for rule := api.IfInvert; rule <= api.ForWhile; rule++ {

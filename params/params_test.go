@@ -34,6 +34,15 @@ func TestExample(t *testing.T) {
 	if !ok || n != 1 || !term.Same(x, module(t, "fn f(a: int): int { return a; } fn g(): int { return f(1); }")) {
 		t.Error(x, n)
 	}
+	self := module(t, "fn f(a: int, b: int): int { return f(a, b); }")
+	if _, _, ok := params.Drop(self, []int{0, 1}); ok {
+		t.Error("a parameter that is only handed on is mentioned")
+	}
+	for _, f := range []int{2, 3} {
+		if _, ok := params.Perm(m, []int{f}); ok {
+			t.Error("there is no such place", f)
+		}
+	}
 	if x, n, ok := params.Drop(m, []int{0, 0}); ok || n != 0 || !reflect.DeepEqual(x, T{}) {
 		t.Error("a is mentioned", x)
 	}
