@@ -54,9 +54,28 @@ func values(x T, path []int, inBlock, isPlace bool) [][]int {
 }
 
 func TestValue(t *testing.T) {
+	for _, text := range []string{text, "const c = 5; fn f(a: int): int { -a = 1; f(a)[-a].x = [a.b][a]; (a + 1)[2] = a[1][2]; @g(a) = new R(a[0], true); } rec R { x: int; } var v: [3]int;", "fn g(): int { 1 = 2; } fn f(a: int): int { if a[0] == 1 { a = a; } else { a.b.c = a.b.c; } for i = a[1] to a { a[i][a[i]] = i; } }"} {
+		everyValue(t, text)
+	}
+	m := parse(t, text)
+	for _, c := range [][2]int{{-1, 3}, {3, -1}, {math.MinInt, math.MaxInt}, {0, 0}, {5, 2}} {
+		if p, ok := pick.Value(m, c[0], c[1]); ok || len(p) != 0 {
+			t.Errorf("%v: %v", c, p)
+		}
+	}
+	two := parse(t, "fn f(): int { return 1; }")
+	two.L[0].L[2].L = append(two.L[0].L[2].L, two.L[0].L[2].L[0])
+	if p, ok := pick.Value(two, 21, 22); !ok || !slices.Equal(p, []int{0, 2, 0, 0}) {
+		t.Error("of several the first one", p)
+	}
+}
+
+// everyValue looks for a value at each two places of a text.
+func everyValue(t *testing.T, text string) {
+	t.Helper()
 	m := parse(t, text)
 	l := values(m, nil, false, false)
-	if len(l) < 30 {
+	if len(l) < 10 {
 		t.Fatal(len(l))
 	}
 	for from := range len(text) + 1 {
@@ -67,16 +86,6 @@ func TestValue(t *testing.T) {
 				t.Errorf("%q: %v %v", text[from:to], p, ok)
 			}
 		}
-	}
-	for _, c := range [][2]int{{-1, 3}, {3, -1}, {math.MinInt, math.MaxInt}, {0, 0}, {5, 2}} {
-		if p, ok := pick.Value(m, c[0], c[1]); ok || len(p) != 0 {
-			t.Errorf("%v: %v", c, p)
-		}
-	}
-	two := parse(t, "fn f(): int { return 1; }")
-	two.L[0].L[2].L = append(two.L[0].L[2].L, two.L[0].L[2].L[0])
-	if p, ok := pick.Value(two, 21, 22); !ok || !slices.Equal(p, []int{0, 2, 0, 0}) {
-		t.Error("of several the first one", p)
 	}
 }
 

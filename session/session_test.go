@@ -113,6 +113,24 @@ func TestCheck(t *testing.T) {
 	}
 }
 
+// TestSlack: a slack is written in eight bytes, the highest first.
+func TestSlack(t *testing.T) {
+	s := session.New(key, 1000)
+	text := "fn f(a: int): int { print a; " + strings.Repeat("{ print a - 1; } ", 100) + "return 0; }"
+	do(t, s, load(text), ok(1))
+	r := s.Do(api.Op{Kind: api.SesRefactor, Req: api.Request{Kind: api.ReqExtractVar, From: 26, To: 27, Name: "b"}})
+	if r.Err != api.OK {
+		t.Fatal(r)
+	}
+	do(t, s, tests(""), ok(1))
+	l, _, _ := chain.Entries(key, s.Log())
+	plan, _ := engine.Make(text, api.Request{Kind: api.ReqExtractVar, From: 26, To: 27, Name: "b"})
+	v, _ := check.Check(text, r.Text, plan.Cert)
+	if v.Slack < 700 || len(l) != 1 || !bytes.Equal(l[0].Body[96:], binary.BigEndian.AppendUint64(nil, v.Slack)) {
+		t.Error(v.Slack, l)
+	}
+}
+
 func TestFull(t *testing.T) {
 	s := session.New(key, 140)
 	do(t, s, load(one), ok(1), rename(4, "b"), ok(1, two), tests(""), err(api.ErrFull), note("x"), ok(1), note(strings.Repeat("y", 66)), err(api.ErrFull), note(strings.Repeat("y", 65)), ok(2), note(""), err(api.ErrFull), verify, ok(2))
