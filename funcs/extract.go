@@ -6,7 +6,7 @@ import (
 
 	"notary/api"
 	"notary/calls"
-	"notary/decls"
+	"notary/drafting"
 	"notary/right"
 	"notary/term"
 	"notary/typer"
@@ -59,29 +59,14 @@ func made(e api.Term, locals []int64, types []api.Term, result api.Term) api.Ter
 	return api.Term{K: api.KFn, L: []api.Term{list, result, {K: api.KBlock, L: []api.Term{says}}}}
 }
 
-// insert is a module with a declaration more at a place, which names others by their old places; all are renumbered.
-func insert(m api.Term, i int, decl api.Term) api.Term {
-	last := len(m.L)
-	m.L = append(slices.Clone(m.L), decl)
-	var nums []int
-	for j := range last {
-		if j == i {
-			nums = append(nums, last)
-		}
-		nums = append(nums, j)
-	}
-	out, _ := decls.Perm(m, nums)
-	return out
-}
-
-func (d *drafter) extract() draft {
-	path, ok := d.selected()
+func (d *drafter) extract() drafting.Draft {
+	path, ok := d.Selected()
 	if !ok {
-		return fails(api.ErrSelect)
+		return drafting.Fails(api.ErrSelect)
 	}
-	named, e := d.at(path)
-	known, _ := right.Locals(d.settled, path)
-	result, _, _, _ := typer.Of(d.settled, known, e)
+	named, e := d.At(path)
+	known, _ := right.Locals(d.Settled, path)
+	result, _, _, _ := typer.Of(d.Settled, known, e)
 	locals := localsOf(e)
 	var types, args []api.Term
 	var names, list []string
@@ -91,44 +76,44 @@ func (d *drafter) extract() draft {
 		types = append(types, kind)
 		args = append(args, api.Term{K: api.KLocal, N: n})
 		names = append(names, name)
-		list = append(list, name+": "+d.typeText(kind))
+		list = append(list, name+": "+d.TypeText(kind))
 	}
 	i := path[0]
 	moved := slices.Clone(path)
 	moved[0]++
-	head := "fn " + d.req.Name + "(" + strings.Join(list, ", ") + "): " + d.typeText(result)
-	place := d.named.L[i].From
-	return draft{
-		edits: []api.Edit{
-			{From: place, To: place, Text: head + " { return " + d.bytes(named) + "; }\n"},
-			{From: named.From, To: named.To, Text: d.req.Name + "(" + strings.Join(names, ", ") + ")"},
+	head := "fn " + d.Req.Name + "(" + strings.Join(list, ", ") + "): " + d.TypeText(result)
+	place := d.Named.L[i].From
+	return drafting.Draft{
+		Edits: []api.Edit{
+			{From: place, To: place, Text: head + " { return " + d.Bytes(named) + "; }\n"},
+			{From: named.From, To: named.To, Text: d.Req.Name + "(" + strings.Join(names, ", ") + ")"},
 		},
-		steps: []api.Step{
-			{Rule: api.DropDecl, Back: true, Nums: []int{i}, Term: insert(d.settled, i, made(e, locals, types, result))},
+		Steps: []api.Step{
+			{Rule: api.DropDecl, Back: true, Nums: []int{i}, Term: drafting.Insert(d.Settled, i, made(e, locals, types, result))},
 			{Rule: api.CallUnfold, Back: true, Path: moved, Term: api.Term{K: api.KCall, N: int64(i), L: args}},
 		},
 	}
 }
 
-func (d *drafter) inline() draft {
-	path, ok := d.selected()
-	named, call := d.at(path)
+func (d *drafter) inline() drafting.Draft {
+	path, ok := d.Selected()
+	named, call := d.At(path)
 	if !ok || call.K != api.KCall {
-		return fails(api.ErrSelect)
+		return drafting.Fails(api.ErrSelect)
 	}
-	r, ok := calls.Unfold(d.settled, call)
+	r, ok := calls.Unfold(d.Settled, call)
 	if !ok || int64(path[0]) == call.N {
-		return fails(api.ErrSide)
+		return drafting.Fails(api.ErrSide)
 	}
-	return draft{
-		edits: []api.Edit{{From: named.From, To: named.To, Text: "(" + d.unfolded(named, int(call.N)) + ")"}},
-		steps: []api.Step{{Rule: api.CallUnfold, Path: path, Term: r}},
+	return drafting.Draft{
+		Edits: []api.Edit{{From: named.From, To: named.To, Text: "(" + d.unfolded(named, int(call.N)) + ")"}},
+		Steps: []api.Step{{Rule: api.CallUnfold, Path: path, Term: r}},
 	}
 }
 
 // unfolded is the text of what a function returns that says one thing, with the parts of a call of it for its parameters.
 func (d *drafter) unfolded(call api.Term, f int) string {
-	named, settled := d.at([]int{f, 2, 0, 0})
+	named, settled := d.At([]int{f, 2, 0, 0})
 	var out strings.Builder
 	place := named.From
 	for _, path := range term.Paths(settled) {
@@ -138,9 +123,9 @@ func (d *drafter) unfolded(call api.Term, f int) string {
 		}
 		use, _ := term.At(named, path)
 		part := call.L[len(call.L)-1-int(x.N)]
-		out.WriteString(d.text[place:use.From] + "(" + d.bytes(part) + ")")
+		out.WriteString(d.Text[place:use.From] + "(" + d.Bytes(part) + ")")
 		place = use.To
 	}
-	out.WriteString(d.text[place:named.To])
+	out.WriteString(d.Text[place:named.To])
 	return out.String()
 }

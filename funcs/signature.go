@@ -5,28 +5,29 @@ import (
 	"strings"
 
 	"notary/api"
+	"notary/drafting"
 	"notary/params"
 	"notary/pick"
 	"notary/term"
 )
 
-func (d *drafter) signature() draft {
-	path, ok := pick.Around(d.named, d.req.From, api.KFn)
+func (d *drafter) signature() drafting.Draft {
+	path, ok := pick.Around(d.Named, d.Req.From, api.KFn)
 	if !ok {
-		return fails(api.ErrSelect)
+		return drafting.Fails(api.ErrSelect)
 	}
 	f := path[0]
-	n := len(d.named.L[f].L[0].L)
-	nums := d.req.Nums
+	n := len(d.Named.L[f].L[0].L)
+	nums := d.Req.Nums
 	switch {
 	case n == 0:
-		return fails(api.ErrSelect)
+		return drafting.Fails(api.ErrSelect)
 	case len(nums) == n:
 		return d.permuted(f)
 	case len(nums) == n-1 && rises(nums, n):
 		return d.dropped(f, n)
 	}
-	return fails(api.ErrRange)
+	return drafting.Fails(api.ErrRange)
 }
 
 // rises asks whether numbers rise, each from 0 to below n.
@@ -44,8 +45,8 @@ func rises(nums []int, n int) bool {
 // calls is all calls of a function, in the named module.
 func (d *drafter) calls(f int) []api.Term {
 	var out []api.Term
-	for _, path := range term.Paths(d.settled) {
-		if named, x := d.at(path); x.K == api.KCall && x.N == int64(f) {
+	for _, path := range term.Paths(d.Settled) {
+		if named, x := d.At(path); x.K == api.KCall && x.N == int64(f) {
 			out = append(out, named)
 		}
 	}
@@ -61,42 +62,42 @@ func (d *drafter) token(place int) int {
 func (d *drafter) joined(parts []api.Term, order []int) string {
 	var l []string
 	for _, i := range order {
-		l = append(l, d.bytes(parts[i]))
+		l = append(l, d.Bytes(parts[i]))
 	}
 	return strings.Join(l, ", ")
 }
 
-func (d *drafter) permuted(f int) draft {
-	order := d.req.Nums
+func (d *drafter) permuted(f int) drafting.Draft {
+	order := d.Req.Nums
 	nums := append([]int{f}, order...)
-	r, ok := params.Perm(d.settled, nums)
+	r, ok := params.Perm(d.Settled, nums)
 	if !ok {
-		return fails(api.ErrSide)
+		return drafting.Fails(api.ErrSide)
 	}
-	list := d.named.L[f].L[0].L
+	list := d.Named.L[f].L[0].L
 	edits := []api.Edit{{From: list[0].From, To: list[len(list)-1].To, Text: d.joined(list, order)}}
 	for _, c := range d.calls(f) {
 		open := d.tokens[d.token(c.From)+1]
 		edits = append(edits, api.Edit{From: open.To, To: c.To - len(")"), Text: d.joined(c.L, order)})
 	}
-	return draft{edits: edits, steps: []api.Step{{Rule: api.PermParams, Nums: nums, Term: r}}}
+	return drafting.Draft{Edits: edits, Steps: []api.Step{{Rule: api.PermParams, Nums: nums, Term: r}}}
 }
 
-func (d *drafter) dropped(f, n int) draft {
+func (d *drafter) dropped(f, n int) drafting.Draft {
 	i := 0
-	for slices.Contains(d.req.Nums, i) {
+	for slices.Contains(d.Req.Nums, i) {
 		i++
 	}
 	nums := []int{f, i}
-	r, _, ok := params.Drop(d.settled, nums)
+	r, _, ok := params.Drop(d.Settled, nums)
 	if !ok {
-		return fails(api.ErrSide)
+		return drafting.Fails(api.ErrSide)
 	}
-	edits := []api.Edit{d.without(d.token(d.named.L[f].L[0].From), i, n)}
+	edits := []api.Edit{d.without(d.token(d.Named.L[f].L[0].From), i, n)}
 	for _, c := range d.calls(f) {
 		edits = append(edits, d.without(d.token(c.From)+1, i, n))
 	}
-	return draft{edits: edits, steps: []api.Step{{Rule: api.DropParam, Nums: nums, Term: r}}}
+	return drafting.Draft{Edits: edits, Steps: []api.Step{{Rule: api.DropParam, Nums: nums, Term: r}}}
 }
 
 // without is the edit that takes the thing i of n out of the list that an opening bracket begins.
