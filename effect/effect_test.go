@@ -137,6 +137,31 @@ func TestWhatFollows(t *testing.T) {
 	}
 }
 
+// TestUnread: what a function comes to, and prints, hangs on no global that it does not read.
+func TestUnread(t *testing.T) {
+	for _, c := range cases {
+		m := module(t, globals+"fn main(): int { "+c.body+" }"+functions)
+		e := effect.Of(m, m.L[5].L[2])
+		s := exec.Start(m, []int64{5, 6}, 200)
+		other := exec.Start(m, []int64{5, 6}, 200)
+		for i, v := range []api.Value{{N: 7}, {L: []api.Value{{N: 3}, {N: 9}}}, {L: []api.Value{{N: 1}, {L: []api.Value{{N: 2}, {N: 4}}}}}} {
+			if !slices.Contains(e.Reads, i) {
+				other.Globals[i] = v
+			}
+		}
+		v, a, err := exec.Call(m, s, 5, nil)
+		w, b, err2 := exec.Call(m, other, 5, nil)
+		if err != api.OK || err2 != api.OK || !reflect.DeepEqual(v, w) || !slices.Equal(a.Trace, b.Trace) || a.Kind != b.Kind || a.N != b.N || a.Fuel != b.Fuel {
+			t.Errorf("%q: %v %v, %v %v", c.body, v, a, w, b)
+		}
+		for _, i := range e.Writes {
+			if !slices.Contains(e.Reads, i) && a.Kind == 0 && !reflect.DeepEqual(a.Globals[i], b.Globals[i]) && !reflect.DeepEqual(a.Globals[i], s.Globals[i]) {
+				t.Errorf("%q writes %v and %v", c.body, a.Globals[i], b.Globals[i])
+			}
+		}
+	}
+}
+
 func TestMeet(t *testing.T) {
 	for _, c := range []struct {
 		a, b []int

@@ -134,6 +134,25 @@ func TestFuel(t *testing.T) {
 	}
 }
 
+// TestKept: what is kept fits its type, however far a run goes.
+func TestKept(t *testing.T) {
+	for _, c := range runs {
+		m := module(t, "pub fn main(): int { "+c.body+" }"+rest)
+		for fuel := range c.used + 2 {
+			s := exec.Start(m, c.input, fuel)
+			v, out, e := exec.Call(m, s, 0, nil)
+			if e != api.OK || len(out.Globals) != len(m.L) || len(out.Locals) != 0 || out.Fuel < 0 || out.Fuel > fuel || out.At < 0 || out.At > len(c.input) || out.Kind == 0 && !value.Fits(m, T{K: api.KInt}, v) || out.Kind != 0 && (v.N != 0 || len(v.L) != 0) {
+				t.Fatalf("%q with %d: %v %v %d", c.body, fuel, v, out, e)
+			}
+			for i, d := range m.L {
+				if d.K == api.KVar && !value.Fits(m, d.L[0], out.Globals[i]) || d.K != api.KVar && (out.Globals[i].N != 0 || len(out.Globals[i].L) != 0) {
+					t.Errorf("%q with %d keeps %v", c.body, fuel, out.Globals[i])
+				}
+			}
+		}
+	}
+}
+
 func TestRunErrors(t *testing.T) {
 	m := module(t, "var g: int; fn f(a: int): int { } fn h(): int { }")
 	for f, want := range map[int]api.Errno{0: api.ErrNone, 1: api.ErrNone, 2: api.OK, 3: api.ErrNone, -1: api.ErrNone, math.MaxInt: api.ErrNone} {

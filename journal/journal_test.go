@@ -179,6 +179,21 @@ func TestCrashes(t *testing.T) {
 	}
 }
 
+// TestOtherHands: what another hand writes behind the log does not matter to it.
+func TestOtherHands(t *testing.T) {
+	d := device.New(1000)
+	j := journal.Open(key, d)
+	j.Append(note(1))
+	other := journal.Open(key, d)
+	other.Append(note(2))
+	d.Append([]byte{1, 2, 3})
+	for i, x := range []*journal.Journal{j, other} {
+		if x.Count() != i+1 || !chain.Verify(key, x.Log(), x.Count(), x.Tag()) || len(x.Entries()) != i+1 {
+			t.Errorf("%d: %d entries, %v", i, x.Count(), x.Log())
+		}
+	}
+}
+
 func TestNil(t *testing.T) {
 	var j *journal.Journal
 	j.Sync()
