@@ -191,27 +191,80 @@ func TestOtherKindsOfTokens(t *testing.T) {
 			t.Errorf("%v: %d", l, e)
 		}
 	}
-	for _, k := range []int{0, api.TokName, api.TokNum, api.TokWord, api.TokSign, api.TokEnd, 6, -1} {
-		for _, s := range []string{"+", "==", "&&", "[", ".", "("} {
-			l := []api.Token{{K: api.TokName, S: "a"}, {K: k, S: s}, {K: api.TokName, S: "b"}, {K: api.TokSign, S: "]"}}
-			_, at, _ := expr.Parse(l, 0)
-			if goes := k == api.TokWord || k == api.TokSign; (at > 1) != goes {
-				t.Errorf("%v: %d", l, at)
-			}
-		}
-		for _, s := range []string{"true", "read", "-", "!", "[", "@", "new"} {
-			l := []api.Token{{K: k, S: s}, {K: api.TokName, S: "b"}, {K: api.TokSign, S: "("}, {K: api.TokNum}, {K: api.TokSign, S: ")"}, {K: api.TokSign, S: "]"}}
-			x, _, e := expr.Parse(l, 0)
-			if goes := k == api.TokWord || k == api.TokSign; goes && (e != api.OK || x.K == api.KName) || !goes && k != api.TokNum && k != api.TokName && e != api.ErrToken {
-				t.Errorf("%v: %v %d", l, x, e)
-			}
-		}
-	}
 	deep := append(make([]api.Token, 0, 1<<15), api.Token{K: api.TokSign, S: "("})
 	for len(deep) < 1<<14 {
 		deep = append(deep, deep...)
 	}
 	if _, at, e := expr.Parse(deep, 0); at != len(deep) || e != api.ErrToken {
 		t.Error("deep brackets", at, e)
+	}
+}
+
+// wrongKinds are the kinds of tokens that are neither names nor numbers, but for the one that is right.
+func wrongKinds(right int) []int {
+	var out []int
+	for _, k := range []int{0, api.TokWord, api.TokSign, api.TokEnd, 6, -1, math.MinInt, math.MaxInt} {
+		if k != right {
+			out = append(out, k)
+		}
+	}
+	return out
+}
+
+// TestWordsAndSigns: a word or sign of the grammar that has another kind ends what stands ahead of it, as the tokens' end does.
+func TestWordsAndSigns(t *testing.T) {
+	seen := map[string]bool{}
+	for _, text := range []string{"a || b && c", "a == b", "a != b", "a < b", "a <= b", "a > b", "a >= b", "a + b - c * d / e % f", "-a", "!a", "- ! - a", "a[1].b[c]", "true", "false", "read", "f()", "f(a, b, c)", "@f()", "@f(a, b)", "(a)", "((a + b)) * c", "[a, b]", "new R(a, b)", "f(read, [true], new R(!@g(false)[1].b))"} {
+		otherKinds(t, expr.Parse, text, seen)
+	}
+	for _, text := range []string{"int", "bool", "[1]int", "[2][3]bool", "[4]R"} {
+		otherKinds(t, expr.Type, text, seen)
+	}
+	for _, s := range []string{"||", "&&", "==", "!=", "<", "<=", ">", ">=", "+", "-", "*", "/", "%", "!", "[", "]", ".", "(", ")", ",", "@", "true", "false", "read", "new", "int", "bool"} {
+		if !seen[s] {
+			t.Errorf("no text has %q", s)
+		}
+	}
+}
+
+// otherKinds reads a text with each of its words and signs, one at a time, of another kind.
+func otherKinds(t *testing.T, read func([]api.Token, int) (api.Term, int, api.Errno), text string, seen map[string]bool) {
+	t.Helper()
+	l := tokens(t, text)
+	l = l[:len(l)-1]
+	if _, at, e := read(l, 0); at != len(l) || e != api.OK {
+		t.Errorf("%q: %d %d", text, at, e)
+	}
+	for i, right := range l {
+		if right.K != api.TokWord && right.K != api.TokSign {
+			continue
+		}
+		seen[right.S] = true
+		want, to, wrong := read(l[:i], 0)
+		for _, k := range wrongKinds(right.K) {
+			l[i].K = k
+			if x, at, e := read(l, 0); at != to || e != wrong || !reflect.DeepEqual(x, want) {
+				t.Errorf("%q with a %q of the kind %d: %v %d %d", text, right.S, k, x, at, e)
+			}
+		}
+		l[i].K = right.K
+	}
+}
+
+// TestWrongKindsBegin: with a word or sign of another kind nothing begins, and nothing goes on.
+func TestWrongKindsBegin(t *testing.T) {
+	for s, right := range map[string]int{"||": api.TokSign, "&&": api.TokSign, "==": api.TokSign, "!=": api.TokSign, "<": api.TokSign, "<=": api.TokSign, ">": api.TokSign, ">=": api.TokSign, "+": api.TokSign, "-": api.TokSign, "*": api.TokSign, "/": api.TokSign, "%": api.TokSign, "[": api.TokSign, ".": api.TokSign, "(": api.TokSign, "!": api.TokSign, "@": api.TokSign, "true": api.TokWord, "false": api.TokWord, "read": api.TokWord, "new": api.TokWord, "int": api.TokWord, "bool": api.TokWord} {
+		for _, k := range wrongKinds(right) {
+			l := []api.Token{{K: api.TokName, S: "a", To: 1}, {K: k, S: s, From: 1, To: 2}, {K: api.TokName, S: "b", From: 2, To: 3}}
+			if x, at, e := expr.Parse(l, 0); at != 1 || e != api.OK || !reflect.DeepEqual(x, api.Term{K: api.KName, S: "a", To: 1}) {
+				t.Errorf("behind a name %q of the kind %d: %v %d %d", s, k, x, at, e)
+			}
+			if x, at, e := expr.Parse(l, 1); at != 1 || e != api.ErrToken || !reflect.DeepEqual(x, api.Term{}) {
+				t.Errorf("%q of the kind %d: %v %d %d", s, k, x, at, e)
+			}
+			if x, at, e := expr.Type(l, 1); at != 1 || e != api.ErrToken || !reflect.DeepEqual(x, api.Term{}) {
+				t.Errorf("type %q of the kind %d: %v %d %d", s, k, x, at, e)
+			}
+		}
 	}
 }

@@ -53,7 +53,15 @@ func (r *Reader) Skip() {
 // Is asks whether the next token is that word or sign.
 func (r *Reader) Is(s string) bool {
 	t := r.Next()
-	return r.Goes() && (t.K == api.TokWord || t.K == api.TokSign) && t.S == s
+	return r.Goes() && t.K == quoted(s) && t.S == s
+}
+
+// quoted is the kind of the tokens that a grammar means by s in quotes: its words begin with a letter, its signs with none.
+func quoted(s string) int {
+	if s != "" && 'a' <= s[0] && s[0] <= 'z' {
+		return api.TokWord
+	}
+	return api.TokSign
 }
 
 // Take moves on behind a word or sign, if that is the next token.

@@ -29,6 +29,18 @@ func TestAlong(t *testing.T) {
 	}
 }
 
+// TestQuotes: a word in quotes is a token of the kind TokWord, a sign in quotes one of the kind TokSign.
+func TestQuotes(t *testing.T) {
+	for s, right := range map[string]int{"int": api.TokWord, "a": api.TokWord, "zz": api.TokWord, "{": api.TokSign, "||": api.TokSign, "@": api.TokSign, "[": api.TokSign, "=": api.TokSign} {
+		for _, k := range []int{0, api.TokName, api.TokNum, api.TokWord, api.TokSign, api.TokEnd, 6, -1} {
+			r, _ := reading.New([]api.Token{{K: k, S: s}}, 0)
+			if is := r.Is(s); is != (k == right) || r.Is(s+s) || r.Is("") {
+				t.Errorf("%q of the kind %d: %t", s, k, is)
+			}
+		}
+	}
+}
+
 func TestErrors(t *testing.T) {
 	for _, at := range []int{-1, 5, math.MinInt, math.MaxInt} {
 		if _, e := reading.New(tokens, at); e != api.ErrRange {

@@ -136,24 +136,71 @@ func TestErrors(t *testing.T) {
 			t.Errorf("block from %d: %d %d", at, p, e)
 		}
 	}
-	for _, k := range []int{0, api.TokName, api.TokNum, api.TokWord, api.TokSign, api.TokEnd, 6, -1} {
-		for _, s := range []string{"print", "return", "do", "{", "let", "if", "while", "for"} {
-			for _, rest := range []string{"f(1);", "}", "a = 1;", "a { }", "a = 1 to 2 { }"} {
-				l := tokens(t, rest)
-				x, _, e := stmt.Parse(append([]api.Token{{K: k, S: s}}, l...), 0)
-				if e == api.OK && k != api.TokWord && k != api.TokSign && x.K != api.KSet {
-					t.Errorf("a token of the kind %d begins %v", k, x)
-				}
-			}
-		}
-		l := tokens(t, "if a { } else { }")
-		l[4].K, l[5].K = k, k
-		if x, at, e := stmt.Parse(l, 0); (k == api.TokWord || k == api.TokSign) != (e == api.OK && at == 7) {
-			t.Errorf("the kind %d: %v %d %d", k, x, at, e)
-		}
-	}
 	deep := tokens(t, strings.Repeat("{", 8000))
 	if _, at, e := stmt.Parse(deep, 0); at != 8000 || e != api.ErrToken {
 		t.Error("deep blocks", at, e)
+	}
+}
+
+// TestWordsAndSigns: where a word or sign of the grammar has another kind, the statement errs there, as it does at the tokens' end.
+func TestWordsAndSigns(t *testing.T) {
+	seen := map[string]bool{}
+	for _, c := range statements {
+		l := tokens(t, c.text)
+		l = l[:len(l)-1]
+		for i, right := range l {
+			if right.K != api.TokWord && right.K != api.TokSign {
+				continue
+			}
+			seen[right.S] = true
+			want, to, wrong := stmt.Parse(l[:i], 0)
+			for _, k := range []int{0, api.TokWord, api.TokSign, api.TokEnd, 6, -1, math.MinInt, math.MaxInt} {
+				if k == right.K {
+					continue
+				}
+				l[i].K = k
+				if x, at, e := stmt.Parse(l, 0); at != to || e != wrong || !reflect.DeepEqual(x, want) {
+					t.Errorf("%q with a %q of the kind %d: %v %d %d", c.text, right.S, k, x, at, e)
+				}
+				if x, at, e := stmt.Block(l, 0); c.want.K == api.KBlock && (at != to || e != wrong || !reflect.DeepEqual(x, want)) {
+					t.Errorf("block %q with a %q of the kind %d: %v %d %d", c.text, right.S, k, x, at, e)
+				}
+			}
+			l[i].K = right.K
+		}
+	}
+	for _, s := range []string{"{", "}", "let", "=", ";", ":", "if", "else", "while", "for", "to", "print", "return", "do"} {
+		if !seen[s] {
+			t.Errorf("no statement has %q", s)
+		}
+	}
+}
+
+// TestWrongKinds: tokens with a word's or a sign's S, but of another kind, and where they err.
+func TestWrongKinds(t *testing.T) {
+	for s, right := range map[string]int{"{": api.TokSign, "let": api.TokWord, "if": api.TokWord, "while": api.TokWord, "for": api.TokWord, "print": api.TokWord, "return": api.TokWord, "do": api.TokWord} {
+		for _, k := range []int{0, api.TokWord, api.TokSign, api.TokEnd, 6, -1} {
+			if k == right {
+				continue
+			}
+			for _, rest := range []string{"", "f(1);", "}", "a = 1;", "a { }", "a = 1 to 2 { }"} {
+				l := append([]api.Token{{K: k, S: s}}, tokens(t, rest)...)
+				if x, at, e := stmt.Parse(l, 0); at != 0 || e != api.ErrToken || !reflect.DeepEqual(x, api.Term{}) {
+					t.Errorf("%q of the kind %d: %v %d %d", s, k, x, at, e)
+				}
+				if x, at, e := stmt.Block(l, 0); at != 0 || e != api.ErrToken || !reflect.DeepEqual(x, api.Term{}) {
+					t.Errorf("block %q of the kind %d: %v %d %d", s, k, x, at, e)
+				}
+			}
+		}
+	}
+	l := tokens(t, "if a { } else { }")
+	l[4].K = api.TokSign
+	if x, at, e := stmt.Parse(l, 0); e != api.OK || at != 4 || x.L[2].From != 8 || len(x.L[2].L) != 0 {
+		t.Error("an else that is none does not belong to the if", x, at, e)
+	}
+	l[4].K, l[5].K = api.TokWord, api.TokWord
+	if x, at, e := stmt.Parse(l, 0); e != api.ErrToken || at != 5 || !reflect.DeepEqual(x, api.Term{}) {
+		t.Error("a block must come behind an else", x, at, e)
 	}
 }
