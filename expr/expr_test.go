@@ -3,6 +3,7 @@ package expr_test
 import (
 	"math"
 	"reflect"
+	"slices"
 	"strings"
 	"testing"
 
@@ -67,7 +68,7 @@ func TestAtoms(t *testing.T) {
 
 // TestOperators: of each two operators the one that binds tighter is the inner one, and those of one line are read from the left.
 func TestOperators(t *testing.T) {
-	lines := [][]string{{"||"}, {"&&"}, {"==", "!=", "<", "<=", ">", ">="}, {"+", "-"}, {"*", "/", "%"}}
+	lines := operators()
 	op := map[string]int64{"||": api.OpOr, "&&": api.OpAnd, "==": api.OpEq, "!=": api.OpNe, "<": api.OpLt, "<=": api.OpLe, ">": api.OpGt, ">=": api.OpGe, "+": api.OpAdd, "-": api.OpSub, "*": api.OpMul, "/": api.OpDiv, "%": api.OpRem}
 	for i, l := range lines {
 		for _, x := range l {
@@ -97,6 +98,105 @@ func TestOperators(t *testing.T) {
 	}
 	is(t, expr.Parse, "a-b-c-d", bin(api.OpSub, bin(api.OpSub, bin(api.OpSub, name("a"), name("b")), name("c")), name("d")))
 	is(t, expr.Parse, "a < b && c < d || e", bin(api.OpOr, bin(api.OpAnd, bin(api.OpLt, name("a"), name("b")), bin(api.OpLt, name("c"), name("d"))), name("e")))
+}
+
+// grammar reads operators and names just as the chapter's lines are written, a line at a time.
+type grammar struct {
+	tokens []api.Token
+	at     int
+}
+
+// operators are the signs of the grammar's lines, the loosest first.
+func operators() [][]string {
+	return [][]string{{"||"}, {"&&"}, {"==", "!=", "<", "<=", ">", ">="}, {"+", "-"}, {"*", "/", "%"}}
+}
+
+// number is the operator that a sign of two operands is.
+func number(s string) int64 {
+	n := int64(api.OpOr)
+	for _, line := range operators() {
+		for _, x := range line {
+			if x == s {
+				return n
+			}
+			n++
+		}
+	}
+	return 0
+}
+
+func (g *grammar) line(i int) api.Term {
+	if i == len(operators()) {
+		x := g.tokens[g.at]
+		g.at++
+		return api.Term{K: api.KName, S: x.S, From: x.From, To: x.To}
+	}
+	out := g.line(i + 1)
+	for slices.Contains(operators()[i], g.tokens[g.at].S) {
+		op := number(g.tokens[g.at].S)
+		g.at++
+		right := g.line(i + 1)
+		out = api.Term{K: api.KBin, N: op, L: []api.Term{out, right}, From: out.From, To: right.To}
+		if i == 2 {
+			break
+		}
+	}
+	return out
+}
+
+// TestGrammar: whatever operators stand behind one another, an expression is what the grammar's lines say, and ends where they end.
+func TestGrammar(t *testing.T) {
+	some := []string{"||", "&&", "==", "<", ">=", "+", "-", "*", "%"}
+	texts := []string{"a"}
+	for n := 0; n < 4; n++ {
+		var longer []string
+		for _, text := range texts {
+			for _, s := range some {
+				longer = append(longer, text+s+"b")
+			}
+		}
+		texts = longer
+		for _, text := range texts {
+			l := tokens(t, text)
+			g := &grammar{tokens: l}
+			want := g.line(0)
+			if x, at, e := expr.Parse(l, 0); e != api.OK || at != g.at || !reflect.DeepEqual(x, want) {
+				t.Fatalf("%q: %v %d %d, not %v %d", text, x, at, e, want, g.at)
+			}
+			inner := tokens(t, "f("+text+")")
+			x, at, e := expr.Parse(inner, 0)
+			if all := g.at == len(l)-1; all && (e != api.OK || at != len(inner)-1 || !term.Same(x.L[0], want)) || !all && (e != api.ErrToken || at != g.at+2) {
+				t.Fatalf("%q in a call: %v %d %d", text, x, at, e)
+			}
+		}
+	}
+}
+
+// TestOneComparison: an operand of || and of && has one comparison at most; where a second one comes the expression ends.
+func TestOneComparison(t *testing.T) {
+	for _, c := range []struct{ text, inside string }{
+		{"a&&b<c<d", "a&&b<c|a|b<c|b|c"}, {"a||b==c!=d", "a||b==c|a|b==c|b|c"}, {"a||b&&c<d<e", "a||b&&c<d|a|b&&c<d|b|c<d|c|d"}, {"a<b&&c<d<e", "a<b&&c<d|a<b|a|b|c<d|c|d"}, {"a<b||c<d==e&&f", "a<b||c<d|a<b|a|b|c<d|c|d"},
+		{"a&&b+1<c*2<d", "a&&b+1<c*2|a|b+1<c*2|b+1|b|1|c*2|c|2"}, {"a&&(b<c)<d<e", "a&&(b<c)<d|a|(b<c)<d|b<c|b|c|d"}, {"a&&b<(c<d)<e", "a&&b<(c<d)|a|b<(c<d)|b|c<d|c|d"}, {"!a&&b<c<", "!a&&b<c|!a|a|b<c|b|c"},
+		{"(a&&b<c)<d<e", "(a&&b<c)<d|a&&b<c|a|b<c|b|c|d"}, {"a<b<c&&d", "a<b|a|b"}, {"a&&b<c&&d<e<f", "a&&b<c&&d<e|a&&b<c|a|b<c|b|c|d<e|d|e"},
+	} {
+		x, at, e := expr.Parse(tokens(t, c.text), 0)
+		var l []string
+		for _, p := range term.Paths(x) {
+			part, _ := term.At(x, p)
+			l = append(l, c.text[part.From:part.To])
+		}
+		if got := strings.Join(l, "|"); e != api.OK || got != c.inside || at != len(tokens(t, l[0]))-1 {
+			t.Errorf("%q: %s %d %d", c.text, got, at, e)
+		}
+	}
+	for _, c := range []struct {
+		text string
+		at   int
+	}{{"f(a&&b<c<d)", 7}, {"(a||b==c!=d)", 6}, {"[a&&b<c,d||e<f<g]", 12}, {"a[b&&c<d<e]", 7}, {"new R(a&&b<c<d)", 8}, {"@f(a||b<c<d)", 8}, {"a&&b<c&&", 6}, {"a&&b<&&", 4}} {
+		if x, at, e := expr.Parse(tokens(t, c.text), 0); at != c.at || e != api.ErrToken || !reflect.DeepEqual(x, api.Term{}) {
+			t.Errorf("%q: %v %d %d", c.text, x, at, e)
+		}
+	}
 }
 
 func TestTypes(t *testing.T) {

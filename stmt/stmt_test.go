@@ -23,6 +23,9 @@ func tokens(t *testing.T, text string) []api.Token {
 
 func name(s string) api.Term { return api.Term{K: api.KName, S: s} }
 func num(n int64) api.Term   { return api.Term{K: api.KNum, N: n} }
+func bin(op int64, a, b api.Term) api.Term {
+	return api.Term{K: api.KBin, N: op, L: []api.Term{a, b}}
+}
 func of(k int, l ...api.Term) api.Term {
 	return api.Term{K: k, L: l}
 }
@@ -48,6 +51,8 @@ var statements = []struct {
 	{"do 1;", of(api.KDo, num(1))},
 	{"a[1].b = 2;", of(api.KSet, named(api.KField, "b", of(api.KIndex, name("a"), num(1))), num(2))},
 	{"1 = 2;", of(api.KSet, num(1), num(2))},
+	{"print 1 && 2 < 3;", of(api.KPrint, bin(api.OpAnd, num(1), bin(api.OpLt, num(2), num(3))))},
+	{"1 || 2 == 3 = 4;", of(api.KSet, bin(api.OpOr, num(1), bin(api.OpEq, num(2), num(3))), num(4))},
 }
 
 func TestParse(t *testing.T) {
@@ -114,6 +119,7 @@ func TestErrors(t *testing.T) {
 		{"", 0}, {"a = ;", 2}, {"a", 1}, {"a;", 1}, {"a = 1", 3}, {"a < b < c = 1;", 3}, {"let", 1}, {"let 1", 1}, {"let a", 2}, {"let a;", 2}, {"let a = ;", 3}, {"let a = 1", 4}, {"let a: ;", 3}, {"let a: 1;", 3}, {"let a: int", 4}, {"let a: int = 1;", 4}, {"let int = 1;", 1},
 		{"if", 1}, {"if a", 2}, {"if a print", 2}, {"if a { ", 3}, {"if a { } else", 5}, {"if a { } else if b { }", 5}, {"if { }", 1}, {"while { }", 1}, {"while a;", 2}, {"for", 1}, {"for 1", 1}, {"for i to", 2}, {"for i = ", 3}, {"for i = 1 { }", 4}, {"for i = 1 to { }", 5}, {"for i = 1 to 2;", 6},
 		{"print;", 1}, {"print 1", 2}, {"return;", 1}, {"return 1 2", 2}, {"do;", 1}, {"do f() }", 4}, {"{", 1}, {"{ print 1; ", 4}, {"{ ; }", 1}, {"}", 0}, {"else", 0}, {"fn", 0}, {"{ let x = 1; x = ) }", 8}, {"print [ 1, ;", 4}, {"if f(,) { }", 3},
+		{"d && e > e >", 5}, {"print a && b < c < d;", 6}, {"return a || b == c != d;", 6}, {"let a = b && c < d < e;", 8}, {"do a || b && c < d < e;", 8}, {"if a && b < c < d { }", 6}, {"while a || b < c == d { }", 6}, {"for i = a && b < c < d to 1 { }", 8}, {"for i = 1 to a && b < c < d { }", 10}, {"a && b < c < d = 1;", 5}, {"a = b && c < d < e;", 7}, {"{ print a && b < c < d; }", 7},
 	} {
 		l := tokens(t, c.text)
 		if x, at, e := stmt.Parse(l, 0); at != c.at || e != api.ErrToken || !reflect.DeepEqual(x, api.Term{}) {

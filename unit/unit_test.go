@@ -105,6 +105,7 @@ func TestErrors(t *testing.T) {
 		{"const", 5, api.ErrToken}, {"const c 1", 8, api.ErrToken}, {"const c = -1;", 10, api.ErrToken}, {"const c = d;", 10, api.ErrToken}, {"const c = 1", 11, api.ErrToken}, {"const c = 1 + 1;", 12, api.ErrToken}, {"const 1 = 1;", 6, api.ErrToken},
 		{"var a", 5, api.ErrToken}, {"var a: ;", 7, api.ErrToken}, {"var a: int", 10, api.ErrToken}, {"var a: int = 1;", 11, api.ErrToken}, {"var int: int;", 4, api.ErrToken},
 		{"pub", 3, api.ErrToken}, {"pub var a: int;", 4, api.ErrToken}, {"fn", 2, api.ErrToken}, {"fn f", 4, api.ErrToken}, {"fn f(", 5, api.ErrToken}, {"fn f(,", 5, api.ErrToken}, {"fn f(a", 6, api.ErrToken}, {"fn f(a: int,)", 12, api.ErrToken}, {"fn f(a: int b", 12, api.ErrToken}, {"fn f() {", 7, api.ErrToken}, {"fn f(): {", 8, api.ErrToken}, {"fn f(): int ;", 12, api.ErrToken}, {"fn f(): int { ", 14, api.ErrToken}, {"fn f(): int { print }", 20, api.ErrToken},
+		{"fn z():l{d&&e>e>", 15, api.ErrToken}, {"fn f(): bool { return a || b < c == d; }", 33, api.ErrToken}, {"fn f(): bool { if a && b < c < d { } }", 29, api.ErrToken},
 		{"a", 0, api.ErrToken}, {" 1", 1, api.ErrToken}, {"var a: int; }", 12, api.ErrToken}, {"let a = 1;", 0, api.ErrToken},
 		{"var a: int; &", 12, api.ErrChar}, {"fn fn 00", 6, api.ErrNumber}, {strings.Repeat(" ", api.MaxSource+1), 0, api.ErrLong}, {"} abcdefghijklmnopq", 2, api.ErrLong},
 		{strings.Repeat("var a: int;", 65), 0, api.ErrSize}, {strings.Repeat("var a: int;", 65) + "}", 65 * 11, api.ErrToken},
